@@ -63,7 +63,10 @@ func lookedUp(m impl.Value, key []byte) (impl.Value, int) {
 	return impl.Value{}, impl.EvLack
 }
 
-// evalByRule tells what e is, by the words of the chapter; both e and v must be ones that may be.
+// greatByRule tells whether a value that keeps all rules passes a limit.
+func greatByRule(v impl.Value) bool { return partsByRule(v) > 40 || deepByRule(v) > 5 }
+
+// evalByRule tells what e is, by the words of the chapter; both e and v must be ones that may be, but that Res may be too great.
 func evalByRule(e impl.Expr, v impl.Env) (impl.Value, int) {
 	switch e.Kind {
 	case impl.ExNull, impl.ExBool, impl.ExInt, impl.ExText:
@@ -131,12 +134,12 @@ func strictByRule(e impl.Expr, l []impl.Value) (impl.Value, int) {
 	switch e.Kind {
 	case impl.ExList, impl.ExMap:
 		x := impl.Value{Kind: e.Kind, K: e.K, L: l}
-		if partsByRule(x) > 40 || deepByRule(x) > 5 {
+		if greatByRule(x) {
 			return impl.Value{}, impl.EvOver
 		}
 		return x, impl.EvWell
 	case impl.ExEq:
-		if strings.Contains(bytesOfKinds(l[0])+bytesOfKinds(l[1]), "6") {
+		if strings.Contains(bytesOfKinds(l[0])+bytesOfKinds(l[1]), "6") || slices.ContainsFunc(l, greatByRule) {
 			return vUnknown, impl.EvWell
 		}
 		return truth(sameByRule(l[0], l[1])), impl.EvWell
@@ -201,9 +204,9 @@ func reckonedByRule(kind int, l []impl.Value) (impl.Value, int) {
 	return vInt(int(out.Int64())), impl.EvWell
 }
 
-// callByRule tells what a function is of values that may be.
+// callByRule tells what a function is of values that keep all rules but, perhaps, the limits.
 func callByRule(name string, l []impl.Value) (impl.Value, int) {
-	if len(l) > 40 {
+	if len(l) > 40 || slices.ContainsFunc(l, greatByRule) {
 		return impl.Value{}, impl.EvForm
 	}
 	f, there := callWants[name]
